@@ -138,20 +138,11 @@ func TestNumbersAreParsedFromTheirText(t *testing.T) {
 
 // Every text of up to four of these bytes is accepted exactly if it is the text of its value.
 func TestParsedTextsAreTheirNumbersTexts(t *testing.T) {
-	const bytes = "019-+ "
-	texts := []string{""}
-	for first := 0; first < len(texts); first++ {
-		if len(texts[first]) < 4 {
-			for i := range len(bytes) {
-				texts = append(texts, texts[first]+bytes[i:i+1])
-			}
-		}
-	}
 	known := map[string]int{}
 	for n := -999; n <= 9999; n++ {
 		known[impl.FormatInt(n)] = n
 	}
-	for _, text := range texts {
+	for _, text := range shortTexts("019-+ ") {
 		want, ok := known[text]
 		if got, accepted := impl.ParseInt(text); accepted != ok || got != want {
 			t.Errorf("ParseInt(%q) = %d, %v, want %d, %v", text, got, accepted, want, ok)
