@@ -23,21 +23,25 @@ func closedBySearch(c impl.Context) []int {
 	return closed
 }
 
-// pseudoBySearch goes from the smaller to the larger sets, as the definition asks for the proper subsets.
-func pseudoBySearch(c impl.Context) []int {
+// pseudoSets goes from the smaller to the larger sets of n elements, as the definition asks for the proper subsets.
+func pseudoSets(n int, closureOf func(s int) int) []int {
 	var found []int
-	for size := range c.Attributes + 1 {
-		for s := range 1 << c.Attributes {
-			if sizeOf(s) != size || closureBySearch(c, s) == s {
+	for size := range n + 1 {
+		for s := range 1 << n {
+			if sizeOf(s) != size || closureOf(s) == s {
 				continue
 			}
-			missing := func(p int) bool { return hasAllOf(s, p) && !hasAllOf(s, closureBySearch(c, p)) }
+			missing := func(p int) bool { return hasAllOf(s, p) && !hasAllOf(s, closureOf(p)) }
 			if !slices.ContainsFunc(found, missing) {
 				found = append(found, s)
 			}
 		}
 	}
 	return inLecticOrder(found)
+}
+
+func pseudoBySearch(c impl.Context) []int {
+	return pseudoSets(c.Attributes, func(s int) int { return closureBySearch(c, s) })
 }
 
 func inLecticOrder(list []int) []int {
@@ -52,13 +56,17 @@ func inLecticOrder(list []int) []int {
 	return sorted
 }
 
-// closingRules returns the rule to its closure for each of the sets.
-func closingRules(c impl.Context, sets []int) []impl.Rule {
+// rulesToClosures returns the rule to its closure for each of the sets.
+func rulesToClosures(sets []int, closureOf func(s int) int) []impl.Rule {
 	var rules []impl.Rule
 	for _, s := range sets {
-		rules = append(rules, rule(s, closureBySearch(c, s)))
+		rules = append(rules, rule(s, closureOf(s)))
 	}
 	return rules
+}
+
+func closingRules(c impl.Context, sets []int) []impl.Rule {
+	return rulesToClosures(sets, func(s int) int { return closureBySearch(c, s) })
 }
 
 // isBaseBySearch asks that exactly the closed sets respect the rules.
@@ -247,13 +255,14 @@ func TestAcceptedListsAreNoShorterThanTheStemBase(t *testing.T) {
 	}
 }
 
-// breaksOf tells for each set, as the bits of a number, which sets do not respect the rule from it to its closure.
-func breaksOf(c impl.Context) []uint64 {
+// breaksOf tells for each set of n elements, as the bits of a number, which sets do not respect the rule from it to its closure.
+func breaksOf(n int, closureOf func(s int) int) []uint64 {
 	var breaks []uint64
-	for s := range 1 << c.Attributes {
+	for s := range 1 << n {
+		closing := rule(s, closureOf(s))
 		var broken uint64
-		for other := range 1 << c.Attributes {
-			if !respectsBySearch(rule(s, closureBySearch(c, s)), other) {
+		for other := range 1 << n {
+			if !respectsBySearch(closing, other) {
 				broken |= 1 << other
 			}
 		}
@@ -276,17 +285,23 @@ func canBreakAll(breaks []uint64, left uint64, rules int) bool {
 	return false
 }
 
-// Promise 10. A rule that holds says no more than the one from its If to the closure, so that only these have to be tried: a
-// list of them is a base exactly if it breaks all sets that are not closed.
+// isShortestSize reports whether lists that say as much as the closures of the sets of n elements need that many rules. A rule
+// that holds says no more than the one from its If to the closure, so that only these have to be tried: a list of them says as
+// much exactly if it breaks all sets that are not closed.
+func isShortestSize(n int, closureOf func(s int) int, size int) bool {
+	var left uint64
+	breaks := breaksOf(n, closureOf)
+	for _, broken := range breaks {
+		left |= broken
+	}
+	return canBreakAll(breaks, left, size) && (size == 0 || !canBreakAll(breaks, left, size-1))
+}
+
+// Promise 10.
 func TestNoListIsShorterThanTheStemBase(t *testing.T) {
 	for _, c := range stemContexts() {
-		var left uint64
-		breaks := breaksOf(c)
-		for _, broken := range breaks {
-			left |= broken
-		}
 		size := len(impl.StemBase(c))
-		if size > 0 && canBreakAll(breaks, left, size-1) || !canBreakAll(breaks, left, size) {
+		if !isShortestSize(c.Attributes, func(s int) int { return closureBySearch(c, s) }, size) {
 			t.Fatalf("the shortest list for %v does not have the %d rules of StemBase", c, size)
 		}
 	}
