@@ -31,6 +31,18 @@ func membersOf(s int) [8]bool {
 	return members
 }
 
+// setOfMembers undoes membersOf.
+func setOfMembers(members [8]bool) int {
+	s, power := 0, 1
+	for _, in := range members {
+		if in {
+			s += power
+		}
+		power *= 2
+	}
+	return s
+}
+
 func comesBefore(s, t int) bool {
 	in, of := membersOf(s), membersOf(t)
 	for e := range in {

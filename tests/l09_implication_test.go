@@ -94,14 +94,7 @@ func commonOfModels(models []int, s int) int {
 			}
 		}
 	}
-	set, power := 0, 1
-	for _, in := range common {
-		if in {
-			set += power
-		}
-		power *= 2
-	}
-	return set
+	return setOfMembers(common)
 }
 
 // rulesOver returns all rules between sets of n attributes.

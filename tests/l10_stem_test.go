@@ -161,12 +161,8 @@ func TestStemBasesOfContexts(t *testing.T) {
 		if textOfRules(base) != k.base {
 			t.Errorf("StemBase(%s) = %s, want %s", k.context, textOfRules(base), k.base)
 		}
-		var sets []int
-		for _, r := range rulesOf(k.base) {
-			sets = append(sets, r.If)
-		}
-		if got := impl.PseudoIntents(c); !slices.Equal(got, sets) {
-			t.Errorf("PseudoIntents(%s) = %v, want %v", k.context, got, sets)
+		if got, want := impl.PseudoIntents(c), ifsOf(rulesOf(k.base)); !slices.Equal(got, want) {
+			t.Errorf("PseudoIntents(%s) = %v, want %v", k.context, got, want)
 		}
 		if got := impl.CountRules(c); got != k.rules {
 			t.Errorf("CountRules(%s) = %d, want %d", k.context, got, k.rules)
@@ -465,11 +461,7 @@ func TestStemBasesWithoutObjectsOrAttributes(t *testing.T) {
 func TestBasesUpToMaxRules(t *testing.T) {
 	for _, c := range stemContexts() {
 		base := impl.StemBase(c)
-		var all []int
-		for s := range 1 << c.Attributes {
-			all = append(all, s)
-		}
-		checkBase(t, c, closingRules(c, all))
+		checkBase(t, c, closingRules(c, setsOver(c.Attributes)))
 		for _, filler := range append(base, rule(0, 0)) {
 			for _, size := range []int{len(base) + 1, 39, 40, 41, 80} {
 				rules := append(slices.Clone(base), slices.Repeat([]impl.Rule{filler}, size-len(base))...)
